@@ -1,0 +1,1 @@
+"""Wasmhost: a deterministic, metered host for WebAssembly modules."""
