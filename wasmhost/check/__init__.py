@@ -1,0 +1,1 @@
+"""Checking of modules."""

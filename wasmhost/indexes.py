@@ -1,0 +1,31 @@
+"""The items of a module as its code numbers them: imported ones first."""
+
+
+def imported_items(module, kind):
+    """Returns the list of what the imports of this kind ask for, in order."""
+    return [row[3] for row in module.imports if row[2] == kind]
+
+
+def function_signatures(module):
+    """Returns the list of the indexes of the signatures of all functions."""
+    return imported_items(module, "func") + [function[0] for function in module.functions]
+
+
+def table_limits(module):
+    """Returns the list of the limits of all tables."""
+    return imported_items(module, "table") + list(module.tables)
+
+
+def memory_limits(module):
+    """Returns the list of the limits of all memories."""
+    return imported_items(module, "memory") + list(module.memories)
+
+
+def global_heads(module):
+    """Returns the list of pairs of the kind of each global and whether it is mutable."""
+    return imported_items(module, "global") + [variable[:2] for variable in module.variables]
+
+
+def tag_signatures(module):
+    """Returns the list of the indexes of the signatures of all tags."""
+    return imported_items(module, "tag") + list(module.tags)
