@@ -1,6 +1,6 @@
 """What several tests need."""
 
-from wasmhost.errors import DecodeError
+from wasmhost.errors import DecodeError, ParseError
 
 
 def decode_fault(test, reason, place, action, *arguments):
@@ -129,3 +129,17 @@ INSTRUCTION_BYTES = [
     (("block", None, (("if", None, (("loop", None, ()),), (("nop",),)), ("nop",))),
      [2, 64, 4, 64, 3, 64, 11, 5, 1, 11, 1, 11]),
 ]
+
+
+def parse_fault(test, reason, line, column, action, text):
+    """Checks that the call raises ParseError with exactly this reason, line and column."""
+    with test.assertRaises(ParseError) as caught:
+        action(text)
+    fault = caught.exception
+    test.assertEqual((fault.reason, fault.line, fault.column), (reason, line, column), text)
+
+
+def marked(text):
+    """A text without its only mark @, and the line and the column of the mark."""
+    before, behind = text.split("@")
+    return before + behind, before.count("\n") + 1, len(before) - before.rfind("\n")

@@ -1,5 +1,8 @@
 """The items of a module as its code numbers them: imported ones first."""
 
+# A file writes a sort as its place among these.
+SORTS = ("func", "table", "memory", "global", "tag")
+
 
 def imported_items(module, kind):
     """Returns the list of what the imports of this kind ask for, in order."""
@@ -29,3 +32,18 @@ def global_heads(module):
 def tag_signatures(module):
     """Returns the list of the indexes of the signatures of all tags."""
     return imported_items(module, "tag") + list(module.tags)
+
+
+LISTS = {
+    "func": function_signatures,
+    "table": table_limits,
+    "memory": memory_limits,
+    "global": global_heads,
+    "tag": tag_signatures,
+}
+
+
+def count_items(module, sort):
+    """Returns the number of all items of this sort."""
+    list_items = LISTS[sort]
+    return len(list_items(module))

@@ -2,6 +2,9 @@
 
 BLOCKS = ("block", "loop", "if", "try_table")
 
+# What may stand in a constant of a module.
+CONSTANTS = ("i32.const", "i64.const", "global.get")
+
 CONSTANT_BITS = {"i32.const": 32, "i64.const": 64}
 
 ACCESS_BITS = {
@@ -25,6 +28,15 @@ ACCESS_BITS = {
     "i64.store16": 16,
     "i64.store32": 32,
 }
+
+
+def shape_kinds(signatures, shape):
+    """Returns the parameters and the results of the shape of a block. An index must name one of the signatures."""
+    if shape is None:
+        return (), ()
+    if shape in ("i32", "i64"):
+        return (), (shape,)
+    return signatures[shape]
 
 
 def bodies_of(instruction):

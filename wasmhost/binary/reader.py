@@ -3,13 +3,10 @@
 from wasmhost.characters import character_of
 from wasmhost.errors import DecodeError
 from wasmhost.instructions import ACCESS_BITS, BLOCKS, CONSTANT_BITS
+from wasmhost.limits import MOST_CHARACTERS, MOST_OPEN
 from wasmhost.binary.numerals import byte_at, read_signed
 from wasmhost.binary.opcodes import ELSE, END, MEMORY_ZEROS, PREFIX, instruction_name, prefixed_name
 from wasmhost.binary.pieces import read_items, read_kind, read_list, read_mark, read_number
-
-MOST_CHARACTERS = 60
-
-MOST_OPEN = 60
 
 NUMBERS_BEHIND = {
     "throw": 1,

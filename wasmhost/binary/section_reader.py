@@ -1,14 +1,15 @@
 """The items of the sections of a file, read from bytes."""
 
 from wasmhost.errors import DecodeError
+from wasmhost.indexes import SORTS
+from wasmhost.instructions import CONSTANTS
+from wasmhost.limits import MOST_LOCALS
 from wasmhost.binary.numerals import byte_at
 from wasmhost.binary.opcodes import END, instruction_name
 from wasmhost.binary.pieces import read_choice, read_items, read_kind, read_list, read_mark, read_number, read_part
 from wasmhost.binary.reader import read_code, read_name, read_operands
-from wasmhost.binary.sections import CONTENTS, CUSTOM, DATA_COUNT, FUNCTIONS, MEMORY_SEGMENTS, MOST_LOCALS
-from wasmhost.binary.sections import SIGNATURE_MARK, SORTS, START, TABLE_MARK, TAG_MARK
-
-CONSTANTS = ("i32.const", "i64.const", "global.get")
+from wasmhost.binary.sections import CONTENTS, CUSTOM, DATA_COUNT, FUNCTIONS, MEMORY_SEGMENTS
+from wasmhost.binary.sections import SIGNATURE_MARK, START, TABLE_MARK, TAG_MARK
 
 
 def read_signature(data, place, end):

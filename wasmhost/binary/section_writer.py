@@ -1,7 +1,8 @@
 """The sections of a file, written as bytes."""
 
+from wasmhost.indexes import SORTS
 from wasmhost.binary.numerals import write_unsigned
-from wasmhost.binary.sections import SIGNATURE_MARK, SORTS, START, TABLE_MARK, TAG_MARK
+from wasmhost.binary.sections import SIGNATURE_MARK, START, TABLE_MARK, TAG_MARK
 from wasmhost.binary.writer import write_code, write_kind, write_list, write_name
 
 

@@ -11,12 +11,8 @@ MEMORY_SEGMENTS = 11
 
 ORDER = (1, 2, 3, 4, 5, 13, 6, 7, 8, 9, 12, 10, 11)
 
-# The byte of an import or export is its place among these.
-SORTS = ("func", "table", "memory", "global", "tag")
-
 SIGNATURE_MARK = 96
 TABLE_MARK = 112
 TAG_MARK = 0
 
 MOST_BYTES = 4000
-MOST_LOCALS = 1000

@@ -24,14 +24,20 @@ def own_function(module, func):
     return module.functions[at]
 
 
-def stacks(module, func):
-    """Returns the list of the stacks at the places of a function, up to and including the first fault."""
-    index, own_kinds, body = own_function(module, func)
-    if index >= len(module.signatures):
-        return []
+def walk_through(module, function):
+    """Returns the walk through the code of a function. The index of its signature must name one."""
+    index, own_kinds, body = function
     walker = Walker(module, module.signatures[index], own_kinds)
     walker.walk(body)
-    return walker.seen
+    return walker
+
+
+def stacks(module, func):
+    """Returns the list of the stacks at the places of a function, up to and including the first fault."""
+    function = own_function(module, func)
+    if function[0] >= len(module.signatures):
+        return []
+    return walk_through(module, function).seen
 
 
 def stack_at(module, func, place):

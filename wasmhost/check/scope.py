@@ -2,6 +2,7 @@
 
 from wasmhost.errors import HostError
 from wasmhost.indexes import function_signatures, global_heads, memory_limits, table_limits, tag_signatures
+from wasmhost.instructions import shape_kinds
 
 
 class CodeFault(HostError):
@@ -70,11 +71,9 @@ class Scope:
 
     def shape(self, shape):
         """Returns the signature that a shape stands for."""
-        if shape is None:
-            return (), ()
-        if shape in ("i32", "i64"):
-            return (), (shape,)
-        return self.signature(shape)
+        if shape not in (None, "i32", "i64") and shape >= len(self.signatures):
+            raise CodeFault("unknown signature")
+        return shape_kinds(self.signatures, shape)
 
     def need_table(self, index):
         """Checks that there is such a table."""

@@ -1,0 +1,1 @@
+"""Saves of engines."""
