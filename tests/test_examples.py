@@ -56,6 +56,24 @@ raises DecodeError("unknown instruction", 1)
 [0, 97, 115, 109, 1, 0, 0, 0, 1, 5, 1, 96, 0, 1, 127, 3, 2, 1, 0, 10, 6, 1, 4, 0, 65, 7, 11]
 >>> decode([0, 97, 115, 109, 1, 0, 0, 0, 3, 2, 1, 0])
 raises DecodeError("function count mismatch", 12)
+>>> from wasmhost.text.tokens import tokens_of, number_of
+>>> tokens_of("(a ;;b\n\"c\\0a\"")
+[('(', '', 1, 1), ('word', 'a', 1, 2), ('string', (99, 10), 2, 1), ('end', '', 2, 7)]
+>>> tokens_of("a (; b")
+raises ParseError("comment does not end", 1, 3)
+>>> number_of("0x1F")
+31
+>>> from wasmhost.text.modules import parse
+>>> parse("(module (func (result i32) i32.const 7))").functions
+((0, (), (('i32.const', 7),)),)
+>>> parse("(module\n  (func i32.konst 1))")
+raises ParseError("unknown instruction", 2, 9)
+>>> from wasmhost.text.modules import parse
+>>> from wasmhost.text.printer import print_module, print_string
+>>> print_string((72, 34, 10))
+'"H\\22\\0a"'
+>>> print_module(parse("(module (func $f (param $n i32) (result i32) local.get $n i32.const 0x10 i32.mul) (start $f))"))
+'(module\n  (type (func (param i32) (result i32)))\n  (func (type 0)\n    local.get 0\n    i32.const 16\n    i32.mul)\n  (start 0))'
 '''
 
 
