@@ -147,7 +147,9 @@ class Structure(unittest.TestCase):
         document = """equal width unsigned signed extend word_bytes bytes_word signature_of calculate write_unsigned
         write_signed read_unsigned read_signed opcode instruction_name write_code write_name read_code read_name encode
         decode stacks count_places stack_at check tokens_of number_of parse print_module print_string mix pack unpack
-        flatten size read write value_fits values_fit lookup put_name publish_items __init__""".split()
+        flatten size read write value_fits values_fit lookup put_name publish_items __init__ add_host resolve link
+        read_memory write_memory read_variable write_variable read_table write_table step run begin answer answer_throw
+        answer_trap at_place""".split()
         for path, tree in trees():
             for function in functions(tree):
                 uses = len(re.findall(r"\b%s\b" % function.name, text))

@@ -14,3 +14,15 @@ MOST_TEXT = 20000
 
 # In a list of names.
 MOST_NAMES = 60
+
+# Parameters, and results, of a signature that a host function or an instance has.
+MOST_KINDS = 16
+
+# Host functions in a store.
+MOST_HOSTS = 20
+
+# Entries of a table in a store.
+MOST_ENTRIES = 256
+
+# Pages of a memory in a store.
+MOST_MEMORY_PAGES = 16

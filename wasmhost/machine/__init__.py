@@ -1,0 +1,1 @@
+"""Machines, which run the functions of a store."""

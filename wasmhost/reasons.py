@@ -1,0 +1,8 @@
+"""The reasons of traps."""
+
+UNREACHABLE = "unreachable"
+OUT_OF_BOUNDS = "out of bounds memory access"
+UNDEFINED_ELEMENT = "undefined element"
+UNINITIALIZED_ELEMENT = "uninitialized element"
+CALL_MISMATCH = "indirect call mismatch"
+STACK_EXHAUSTED = "call stack exhausted"
