@@ -33,10 +33,6 @@ def finished(text, arguments=(), func=0):
     return machine.status, machine.spent
 
 
-def table_of(table):
-    return copy.deepcopy(vars(table))
-
-
 def picture(machine):
     """Everything that a machine and its store have, apart from modules and code, as plain values."""
     store = machine.store
@@ -52,3 +48,16 @@ def stepped(machine, count):
     for _ in range(count):
         assert step(machine) is True
     return machine
+
+
+def twin(machine):
+    """Another machine in the same state. The two share modules and code only, which no machine changes."""
+    store = Store()
+    for name in ("functions", "tags", "instances"):
+        setattr(store, name, list(getattr(machine.store, name)))
+    for name in ("tables", "memories", "variables"):
+        setattr(store, name, copy.deepcopy(getattr(machine.store, name)))
+    other = Machine(store)
+    other.frames = copy.deepcopy(machine.frames)
+    other.status, other.spent = machine.status, machine.spent
+    return other

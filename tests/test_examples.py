@@ -74,6 +74,37 @@ raises ParseError("unknown instruction", 2, 9)
 '"H\\22\\0a"'
 >>> print_module(parse("(module (func $f (param $n i32) (result i32) local.get $n i32.const 0x10 i32.mul) (start $f))"))
 '(module\n  (type (func (param i32) (result i32)))\n  (func (type 0)\n    local.get 0\n    i32.const 16\n    i32.mul)\n  (start 0))'
+>>> from wasmhost.engine import Engine
+>>> from wasmhost.modules import Module
+>>> engine = Engine()
+>>> first = Module(memories=((1, None),), variables=(("i32", False, ("i32.const", 65535)),), exports=(("m", "memory", 0), ("at", "global", 0)))
+>>> made = [engine.instantiate(first)]
+>>> engine.publish(0, "a")
+>>> second = Module(imports=(("a", "m", "memory", (1, None)), ("a", "at", "global", ("i32", False))), memory_segments=((0, ("i32.const", 0), (120,)), (0, ("global.get", 0), (121, 122))))
+>>> made.append(engine.instantiate(second))
+>>> (made, engine.names(), engine.read(0, 0, 2), engine.read(0, 65535, 1))
+([(0, None), (1, 'out of bounds memory access')], [('a', 'm', 'memory', 0), ('a', 'at', 'global', 0)], [120, 0], [0])
+>>> from wasmhost.modules import Module
+>>> from wasmhost.engine import Engine
+>>> add = (("local.get", 0), ("call", 1), ("i32.const", 1), ("i32.add",))
+>>> double = (("local.get", 0), ("i32.const", 2), ("i32.mul",))
+>>> module = Module(signatures=((("i32",), ("i32",)),), functions=((0, (), add), (0, (), double)))
+>>> engine = Engine()
+>>> made = engine.instantiate(module)
+>>> engine.break_at(0, 2)
+>>> engine.call(0, (5,))
+>>> taken = engine.run(100)
+>>> before = engine.frames()
+>>> engine.set_local(0, 0, 7)
+>>> more = [engine.over(100), engine.run(100)]
+>>> (made, taken, before, more, engine.status())
+((0, None), 6, [(0, 0, 2, (5,), (10,))], [1, 2], ('finished', (11,), 9))
+>>> from wasmhost.judge import narrow
+>>> narrow([1, 2, 3, 4, 5], [1, 2, 3, 0, 0])
+(2, [2, 3])
+>>> from wasmhost.engine import Engine
+>>> Engine().save()
+[87, 65, 83, 1, 0, 0, 0, 0, 0, 0, 0, 1, 0, 0, 0, 0, 0, 139, 36, 28, 24]
 '''
 
 

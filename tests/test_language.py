@@ -149,7 +149,11 @@ class Structure(unittest.TestCase):
         decode stacks count_places stack_at check tokens_of number_of parse print_module print_string mix pack unpack
         flatten size read write value_fits values_fit lookup put_name publish_items __init__ add_host resolve link
         read_memory write_memory read_variable write_variable read_table write_table step run begin answer answer_throw
-        answer_trap at_place""".split()
+        answer_trap at_place blocks fold copies prune improve heights_of do_block run_fast fast_entry
+        write_record read_record audit part claims narrow judge define publish names instantiate shown signature variable
+        set_variable table set_table pages call start status over out into break_at clear_break breaks frames set_local
+        make_fast make_plain fast_functions block_at improved_at save restore digest record recorded stop
+        replay""".split()
         for path, tree in trees():
             for function in functions(tree):
                 uses = len(re.findall(r"\b%s\b" % function.name, text))

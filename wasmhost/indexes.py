@@ -43,7 +43,12 @@ LISTS = {
 }
 
 
+def all_items(module, sort):
+    """Returns the list of what the module says of all items of this sort. For each, an import says the same."""
+    list_items = LISTS[sort]
+    return list_items(module)
+
+
 def count_items(module, sort):
     """Returns the number of all items of this sort."""
-    list_items = LISTS[sort]
-    return len(list_items(module))
+    return len(all_items(module, sort))

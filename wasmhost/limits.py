@@ -26,3 +26,9 @@ MOST_ENTRIES = 256
 
 # Pages of a memory in a store.
 MOST_MEMORY_PAGES = 16
+
+# Instances in an engine.
+MOST_INSTANCES = 8
+
+# Steps that an engine takes at once.
+MOST_STEPS = 2000

@@ -2,7 +2,7 @@
 
 from wasmhost.errors import ImportMissing, ImportUnfit, LimitReached
 from wasmhost.flat import flatten
-from wasmhost.items import items_of
+from wasmhost.items import host_functions, items_of
 from wasmhost.limits import MOST_ENTRIES, MOST_HOSTS, MOST_KINDS, MOST_MEMORY_PAGES
 from wasmhost.names import lookup
 from wasmhost.reasons import OUT_OF_BOUNDS, UNDEFINED_ELEMENT
@@ -16,15 +16,10 @@ def check_signature(params, results):
         raise LimitReached("signature")
 
 
-def count_hosts(store):
-    """Returns the number of host functions."""
-    return len([row for row in store.functions if row[0] == "host"])
-
-
 def add_host(store, params, results):
     """Adds a host function and returns its number among the functions."""
     check_signature(params, results)
-    number = count_hosts(store)
+    number = len(host_functions(store))
     if number >= MOST_HOSTS:
         raise LimitReached("host functions")
     store.functions.append(("host", number, (params, results)))

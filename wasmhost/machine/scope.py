@@ -1,5 +1,7 @@
 """What the code of a frame can reach."""
 
+from wasmhost.items import code_at
+
 
 def instance_of(machine, frame):
     """Returns the instance of a frame."""
@@ -8,8 +10,7 @@ def instance_of(machine, frame):
 
 def code_of(machine, frame):
     """Returns the flat code of the function of a frame."""
-    _, instance, number, _ = machine.store.functions[frame.func]
-    return machine.store.instances[instance].codes[number]
+    return code_at(machine.store, frame.func)
 
 
 def variable_of(machine, frame, index):

@@ -1,0 +1,1 @@
+"""Blocks, which do several steps of a function at once."""
