@@ -217,6 +217,39 @@ class Instantiate(EngineCase):
         engine.run(100)
         self.assertEqual(engine.instantiate(parse("(module)")), (1, None))
 
+    def test_each_two(self):
+        """Modules with two of the faults of a module, and engines with up to two of the others: the first one in this order counts."""
+        wanted = (InvalidModule, "file", "size", Busy, "instances", ImportMissing, ImportUnfit)
+        crowded = full_engine()
+        for _ in range(7):
+            crowded.instantiate(parse("(module)"))
+        busy = full_engine()
+        for _ in range(7):
+            busy.instantiate(parse("(module)"))
+        busy.call(TWO, ())
+        engines = ((full_engine(), ()), (crowded, ("instances",)), (in_progress(full_engine()), (Busy,)), (busy, (Busy, "instances")))
+        parts = {
+            InvalidModule: {"functions": ((99, (), ()),)},
+            "file": {"memories": padded(4001).memories, "memory_segments": padded(4001).memory_segments},
+            "size": {"tables": ((257, None),)},
+            ImportMissing: {"imports": (("i0", "zz", "global", (A, True)),)},
+            ImportUnfit: {"imports": (("i0", "t", "global", (A, True)),)},
+        }
+        for engine, others in engines:
+            for first in parts:
+                for second in parts:
+                    faults = {first, second} | set(others)
+                    if {ImportMissing, ImportUnfit} <= faults:
+                        continue
+                    due = next(fault for fault in wanted if fault in faults)
+                    given = dict(parts[first])
+                    given.update(parts[second])
+                    module = Module(**given)
+                    if isinstance(due, str):
+                        self.fault(engine, LimitReached, {"what": due}, "instantiate", module)
+                    else:
+                        self.fault(engine, due, {"index": 0} if due in (ImportMissing, ImportUnfit) else {}, "instantiate", module)
+
     def test_imports(self):
         engine = full_engine()
         self.fault(engine, ImportMissing, {"index": 1}, "instantiate", parse('(module (import "i0" "t" (func)) (import "i0" "z" (func)))'))

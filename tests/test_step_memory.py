@@ -161,6 +161,17 @@ class Sizes(Case):
         self.assertEqual(machine.frames[0].stack, [-1, 2])
 
 
+class BelowTheOperands(unittest.TestCase):
+    def test_values_stay(self):
+        for code, given in (("i32.const 1 memory.grow", [-1]), ("memory.size", [1]), ("i32.const 3 i32.const 2 i32.const 0 select", [2]),
+                            ("i32.const 1 i32.const 2 i32.const 0 memory.fill", []), ("i32.const 0 i32.const 0 i32.const 0 memory.copy", []),
+                            ("i32.const 0 i32.const 2 i32.const 65 memory.fill", [64, 2, 1]), ("i32.const 9 i32.const 2 i32.const 65 memory.copy", [9, 2, 1]),
+                            ("i32.const 0 i32.load8_u", [0]), ("i32.const 0 i32.const 0 i32.store8", [])):
+            machine = started("(module (memory 1 1) (func i64.const 7 i32.const 8 " + code + " unreachable))")
+            stepped(machine, 2 + code.count("const") + 1)
+            self.assertEqual(machine.frames[0].stack, [7, 8] + given, code)
+
+
 class Fill(Case):
     def fill(self, address, value, count, pages="1", data=()):
         return self.machine("memory.fill", (address, value, count), data, pages)

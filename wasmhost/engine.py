@@ -268,7 +268,7 @@ class Engine:
         self.reset(loaded.machine)
         self.known = loaded.known
         self.points = loaded.points
-        for func in loaded.fast:
+        for func in list(loaded.fast):
             self.make_fast(func)
 
     def digest(self):

@@ -4,17 +4,15 @@ from wasmhost.deeds import can_do
 from wasmhost.errors import BadClaim, DamagedRecord, DamagedSave
 from wasmhost.save.loader import load_save
 from wasmhost.save.numerals import pack, unpack
-from wasmhost.save.reading import Source, read_bytes, read_choice, read_entry, read_kinds, read_list, read_number
-from wasmhost.save.reading import read_numbers, read_reason, read_value, read_values
+from wasmhost.save.reading import READERS, Source, read_bytes, read_choice, read_list
 from wasmhost.save.writer import digest_of
-from wasmhost.save.writing import write_entry, write_kinds, write_list, write_number, write_numbers, write_reason
-from wasmhost.save.writing import write_value, write_values
+from wasmhost.save.writing import WRITERS, write_list, write_numbers
 
 RECORD_HEAD = (87, 65, 82, 1)
 
 DEEDS = ("host", "instance", "call", "run", "answer", "throw", "trap", "write", "variable", "table", "local")
 
-# The sorts of the parts of each deed.
+# The sorts of the parts of each deed, for which WRITERS and READERS have functions.
 PARTS = {
     "host": ("kinds", "kinds"),
     "instance": ("bytes", "numbers"),
@@ -28,29 +26,6 @@ PARTS = {
     "table": ("number", "number", "entry"),
     "local": ("number", "number", "value"),
 }
-
-WRITERS = {
-    "kinds": write_kinds,
-    "bytes": write_numbers,
-    "numbers": write_numbers,
-    "number": write_number,
-    "values": write_values,
-    "value": write_value,
-    "reason": write_reason,
-    "entry": write_entry,
-}
-
-READERS = {
-    "kinds": read_kinds,
-    "bytes": read_bytes,
-    "numbers": read_numbers,
-    "number": read_number,
-    "values": read_values,
-    "value": read_value,
-    "reason": read_reason,
-    "entry": read_entry,
-}
-
 
 def write_row(row):
     """Returns the numbers of a deed and its digest."""

@@ -70,6 +70,9 @@ def grow(machine, frame, instruction):
     frame.stack[-1] = former
 
 
+PAGE_ACTIONS = {"memory.size": size, "memory.grow": grow}
+
+
 def put_rest(frame, operands):
     """Replaces the three operands of an instruction that is not finished."""
     frame.stack[-3:] = [signed("i32", operand) for operand in operands]
@@ -119,3 +122,7 @@ def copy(machine, frame, row):
         put_rest(frame, copy_from_front(memory, target, origin, count))
     else:
         put_rest(frame, copy_from_back(memory, target, origin, count))
+
+
+# What may take several steps.
+LONG_ACTIONS = {"memory.fill": fill, "memory.copy": copy}

@@ -2,7 +2,7 @@
 
 from wasmhost.errors import Trap
 from wasmhost.instructions import ACCESS_BITS
-from wasmhost.machine.memory import grow, load, size, store
+from wasmhost.machine.memory import PAGE_ACTIONS, load, store
 from wasmhost.machine.scope import variable_of
 from wasmhost.numbers import calculate, signature_of
 from wasmhost.reasons import UNREACHABLE
@@ -85,8 +85,6 @@ ACTIONS = {
     "local.tee": local_tee,
     "global.get": global_get,
     "global.set": global_set,
-    "memory.size": size,
-    "memory.grow": grow,
 }
 
 
@@ -94,6 +92,8 @@ def action_of(name):
     """Returns the function that carries out the instruction of this name."""
     if name in ACTIONS:
         return ACTIONS[name]
+    if name in PAGE_ACTIONS:
+        return PAGE_ACTIONS[name]
     if name not in ACCESS_BITS:
         return compute
     if name[4:].startswith("load"):

@@ -2,7 +2,7 @@
 
 from wasmhost.errors import Trap
 from wasmhost.machine.calls import branch, check_room, enter, leave, take, throw_values
-from wasmhost.machine.memory import copy, fill
+from wasmhost.machine.memory import LONG_ACTIONS
 from wasmhost.machine.plain import do_plain
 from wasmhost.machine.scope import code_of, instance_of
 from wasmhost.machine.state import RUNNING
@@ -111,8 +111,6 @@ ACTIONS = {
     "call": do_call,
     "call_indirect": do_call_indirect,
     "throw": do_throw,
-    "memory.fill": fill,
-    "memory.copy": copy,
 }
 
 
@@ -121,6 +119,9 @@ def carry_out(machine, frame, row):
     instruction = row[0]
     if instruction[0] in ACTIONS:
         action = ACTIONS[instruction[0]]
+        action(machine, frame, row)
+    elif instruction[0] in LONG_ACTIONS:
+        action = LONG_ACTIONS[instruction[0]]
         action(machine, frame, row)
     else:
         do_plain(machine, frame, instruction)

@@ -125,3 +125,16 @@ def read_entry(source):
     if number == 0:
         return None
     return number - 1
+
+
+# By the sort of what is read.
+READERS = {
+    "kinds": read_kinds,
+    "bytes": read_bytes,
+    "numbers": read_numbers,
+    "number": read_number,
+    "values": read_values,
+    "value": read_value,
+    "reason": read_reason,
+    "entry": read_entry,
+}

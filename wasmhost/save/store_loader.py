@@ -113,8 +113,9 @@ def check_own_functions(instance, number, owners):
 def load_instances(store, form, modules):
     """Puts the instances into the store."""
     owners = owners_of(store)
-    for module, row in zip(modules, form.instances):
-        instance = load_instance(store, module, row[1])
+    lists = [row[1] for row in form.instances]
+    for module, numbers in zip(modules, lists):
+        instance = load_instance(store, module, numbers)
         check_own_functions(instance, len(store.instances), owners)
         store.instances.append(instance)
 

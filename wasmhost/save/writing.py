@@ -74,3 +74,16 @@ def write_entry(func):
     if func is None:
         return [0]
     return [func + 1]
+
+
+# By the sort of what is written.
+WRITERS = {
+    "kinds": write_kinds,
+    "bytes": write_numbers,
+    "numbers": write_numbers,
+    "number": write_number,
+    "values": write_values,
+    "value": write_value,
+    "reason": write_reason,
+    "entry": write_entry,
+}
