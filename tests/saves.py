@@ -6,6 +6,8 @@ import copy
 
 MODULUS = 2147483647
 
+DIGEST_MODULUS = 2305843009213693951
+
 KINDS = ("func", "table", "memory", "global", "tag")
 
 STATUSES = ("running", "finished", "trapped", "thrown", "asks")
@@ -123,3 +125,10 @@ def tree_of(engine):
         "points": [list(row) for row in engine.breaks()],
         "fast": engine.fast_functions(),
     })
+
+
+def digest_of(engine):
+    """The digest of point 1001, counted anew from the save of an engine without names, breakpoints and fast functions."""
+    tree = tree_of(engine)
+    tree.update(names=[], points=[], fast=[])
+    return check_of(save_of(tree), DIGEST_MODULUS)

@@ -46,7 +46,20 @@ class Mix(unittest.TestCase):
             self.assertEqual(mix(data, modulus), whole % modulus)
             self.assertEqual(mix(tuple(data), modulus), whole % modulus)
 
+    def test_each_length(self):
+        for modulus in (2, 255, MODULUS, 2305843009213693951, 10 ** 30):
+            whole, data = 0, []
+            for place in range(140):
+                self.assertEqual(mix(data, modulus), whole % modulus)
+                self.assertEqual(mix(tuple(data), modulus), whole % modulus)
+                data.append((place * 89 + 255) % 256)
+                whole = whole * 257 + data[-1] + 1
+
     def test_the_argument_stays(self):
+        data = [1, 2, 3] * 20
+        before = list(data)
+        mix(data, 5)
+        self.assertEqual(data, before)
         data = [1, 2, 3]
         mix(data, 5)
         self.assertEqual(data, [1, 2, 3])

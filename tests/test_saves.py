@@ -2,18 +2,9 @@
 import unittest
 
 from engines import ASK, FILL, TWO, EngineCase, busy_engine, engine_with, full_engine, states
-from saves import check_of, packed, save_of, tree_of
+from saves import DIGEST_MODULUS, digest_of, packed, save_of, tree_of
 from wasmhost.engine import Engine
 from wasmhost.text.modules import parse
-
-DIGEST_MODULUS = 2305843009213693951
-
-
-def digest_of(engine):
-    """The digest of point 1001, from the save of an engine without names, breakpoints and fast functions."""
-    tree = tree_of(engine)
-    tree.update(names=[], points=[], fast=[])
-    return check_of(save_of(tree), DIGEST_MODULUS)
 
 
 class Numbers(EngineCase):

@@ -14,8 +14,9 @@ from wasmhost.machine.state import Machine
 from wasmhost.machine.step import step
 from wasmhost.names import publish_items, put_name
 from wasmhost.records import replayed, write_record
+from wasmhost.save.digests import digest_of
 from wasmhost.save.loader import load_save
-from wasmhost.save.writer import digest_of, machine_save, write_save
+from wasmhost.save.writer import machine_save, write_save
 from wasmhost.store import Store
 
 
@@ -28,6 +29,7 @@ class Engine:
     def reset(self, machine):
         """Takes a machine, without names, breakpoints, fast functions and a record."""
         self.machine = machine
+        self.kept = {}
         self.known = []
         self.points = []
         self.fast = {}
@@ -37,7 +39,7 @@ class Engine:
     def note(self, deed):
         """Notes a deed that has been performed, if the engine records."""
         if self.base is not None:
-            self.rows.append((deed, digest_of(self.machine)))
+            self.rows.append((deed, self.digest()))
 
     def perform(self, deed):
         """Performs a deed and notes it."""
@@ -273,7 +275,7 @@ class Engine:
 
     def digest(self):
         """Returns the digest of the machine."""
-        return digest_of(self.machine)
+        return digest_of(self.machine, self.kept)
 
     def record(self):
         """Begins to record."""

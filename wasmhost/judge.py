@@ -4,20 +4,21 @@ from wasmhost.deeds import check_steps
 from wasmhost.errors import BadClaim
 from wasmhost.limits import MOST_STEPS
 from wasmhost.machine.step import step
+from wasmhost.save.digests import digest_of
 from wasmhost.save.loader import load_save
-from wasmhost.save.writer import digest_of
 
 
 def claims(data, steps):
     """Returns the list of the digests of the machine of a save and of the same machine behind each further step."""
     machine = load_save(data).machine
     check_steps(steps)
-    digests = [digest_of(machine)]
+    kept = {}
+    digests = [digest_of(machine, kept)]
     for _ in range(steps):
         # A machine that is not running stays as it is.
         digest = digests[-1]
         if step(machine):
-            digest = digest_of(machine)
+            digest = digest_of(machine, kept)
         digests.append(digest)
     return digests
 
@@ -45,10 +46,11 @@ def narrow(first, second):
 def judge(data, before, first, second):
     """Returns whose claim is the digest behind one step: "first", "second", "both" or "neither"."""
     machine = load_save(data).machine
-    if digest_of(machine) != before:
+    kept = {}
+    if digest_of(machine, kept) != before:
         raise BadClaim()
     step(machine)
-    digest = digest_of(machine)
+    digest = digest_of(machine, kept)
     if first == digest and second == digest:
         return "both"
     if first == digest:

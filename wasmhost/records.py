@@ -2,10 +2,10 @@
 
 from wasmhost.deeds import can_do
 from wasmhost.errors import BadClaim, DamagedRecord, DamagedSave
+from wasmhost.save.digests import digest_of
 from wasmhost.save.loader import load_save
 from wasmhost.save.numerals import pack, unpack
 from wasmhost.save.reading import READERS, Source, read_bytes, read_choice, read_list
-from wasmhost.save.writer import digest_of
 from wasmhost.save.writing import WRITERS, write_list, write_numbers
 
 RECORD_HEAD = (87, 65, 82, 1)
@@ -82,8 +82,9 @@ def replayed(data):
 def audit(data):
     """Returns the number of the first row whose deed or digest is wrong, or None."""
     _, loaded, rows = read_checked(data)
+    kept = {}
     for number, (deed, digest) in enumerate(rows):
-        if not can_do(loaded.machine, deed) or digest_of(loaded.machine) != digest:
+        if not can_do(loaded.machine, deed) or digest_of(loaded.machine, kept) != digest:
             return number
     return None
 

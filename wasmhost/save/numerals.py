@@ -1,6 +1,5 @@
 """Numbers of any size with a head and a check, as bytes."""
 
-from wasmhost.binary.numerals import write_unsigned
 from wasmhost.errors import DamagedSave
 from wasmhost.words import word_bytes
 
@@ -8,13 +7,34 @@ CHECK_MODULUS = 2147483647
 
 CHECK_BYTES = 4
 
+# So many that it pays to take four at once.
+MANY_BYTES = 16
+
+
+def mix_fours(check, data, modulus):
+    """Does what `mix_behind` does for bytes whose number is a multiple of four: four of them at once take less time."""
+    for first, second, third, fourth in zip(data[0::4], data[1::4], data[2::4], data[3::4]):
+        # A byte b counts b + 1 times a power of 257; 17040900 is the sum of the first four powers.
+        word = ((first * 257 + second) * 257 + third) * 257 + fourth
+        check = (check * 4362470401 + word + 17040900) % modulus
+    return check
+
+
+def mix_behind(check, data, modulus):
+    """Returns the check of bytes that stand behind others, whose check is given."""
+    rest = data
+    if len(data) >= MANY_BYTES:
+        split = len(data) - len(data) % 4
+        check = mix_fours(check, data[:split], modulus)
+        rest = data[split:]
+    for byte in rest:
+        check = (check * 257 + byte + 1) % modulus
+    return check
+
 
 def mix(data, modulus):
     """Returns the check of a list or tuple of bytes with this modulus."""
-    check = 0
-    for byte in data:
-        check = (check * 257 + byte + 1) % modulus
-    return check
+    return mix_behind(0, data, modulus)
 
 
 def check_bytes(data):
@@ -22,36 +42,43 @@ def check_bytes(data):
     return word_bytes(mix(data, CHECK_MODULUS), CHECK_BYTES)
 
 
+def number_bytes(numbers):
+    """Returns the list of the bytes of numbers."""
+    data = []
+    for number in numbers:
+        while number >= 128:
+            data.append((number & 127) + 128)
+            number = number >> 7
+        data.append(number)
+    return data
+
+
 def pack(head, numbers):
     """Returns the list of the head, the bytes of the numbers, and the check bytes."""
-    data = list(head)
-    for number in numbers:
-        data.extend(write_unsigned(number))
+    data = list(head) + number_bytes(numbers)
     return data + check_bytes(data)
 
 
-def group_rows(data):
-    """Returns the list of the lists of groups of seven bits, one list for each number, the lowest group first."""
-    rows = []
-    groups = []
-    for byte in data:
-        groups.append(byte & 127)
-        if byte < 128:
-            rows.append(groups)
-            groups = []
-    if len(groups) > 0:
-        raise DamagedSave("numbers")
-    return rows
-
-
-def joined(groups):
-    """Returns the number that groups of seven bits write, which must be as few as possible."""
-    if len(groups) > 1 and groups[-1] == 0:
-        raise DamagedSave("numbers")
+def numbers_of(data):
+    """Returns the list of the numbers that bytes write, each of them with as few bytes as possible."""
+    numbers = []
     number = 0
-    for part in groups[::-1]:
-        number = (number << 7) + part
-    return number
+    shift = 0
+    for byte in data:
+        if byte >= 128:
+            number = number + ((byte - 128) << shift)
+            shift = shift + 7
+        elif shift == 0:
+            numbers.append(byte)
+        elif byte == 0:
+            raise DamagedSave("numbers")
+        else:
+            numbers.append(number + (byte << shift))
+            number = 0
+            shift = 0
+    if shift > 0:
+        raise DamagedSave("numbers")
+    return numbers
 
 
 def unpack(head, data):
@@ -61,4 +88,4 @@ def unpack(head, data):
         raise DamagedSave("head")
     if data[behind:] != check_bytes(data[:behind]):
         raise DamagedSave("check")
-    return [joined(groups) for groups in group_rows(data[len(head):behind])]
+    return numbers_of(data[len(head):behind])

@@ -20,6 +20,15 @@ class Source:
         self.at = self.at + 1
         return self.numbers[self.at - 1]
 
+    def take_list(self):
+        """Returns the list of the numbers of a list of numbers."""
+        count = self.take()
+        first = self.at
+        if count > len(self.numbers) - first:
+            raise DamagedSave("form")
+        self.at = first + count
+        return self.numbers[first:first + count]
+
     def check_end(self):
         """Checks that no number is left over."""
         if self.at < len(self.numbers):
@@ -50,7 +59,7 @@ def read_list(source, read_item):
 
 def read_numbers(source):
     """Returns the tuple of a list of numbers."""
-    return read_list(source, read_number)
+    return tuple(source.take_list())
 
 
 def read_pair(source):
@@ -59,17 +68,12 @@ def read_pair(source):
     return first, source.take()
 
 
-def read_byte(source):
-    """Returns a byte."""
-    number = source.take()
-    if number > 255:
-        raise DamagedSave("form")
-    return number
-
-
 def read_bytes(source):
     """Returns the tuple of a list of bytes."""
-    return read_list(source, read_byte)
+    numbers = source.take_list()
+    if max(numbers, default=0) > 255:
+        raise DamagedSave("form")
+    return tuple(numbers)
 
 
 def read_value(source):

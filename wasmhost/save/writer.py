@@ -3,13 +3,11 @@
 from wasmhost.binary.modules import encode
 from wasmhost.indexes import SORTS
 from wasmhost.items import items_of
-from wasmhost.save.numerals import mix, pack
+from wasmhost.save.numerals import pack
 from wasmhost.save.writing import write_entry, write_kind, write_list, write_numbers, write_pair, write_reason
 from wasmhost.save.writing import write_signature, write_text, write_value, write_values
 
 SAVE_HEAD = (87, 65, 83, 1)
-
-DIGEST_MODULUS = 2305843009213693951
 
 
 def write_instance(instance):
@@ -27,9 +25,15 @@ def write_function(row):
     return [0, row[1], row[2]]
 
 
-def write_table(table):
+def table_rows(store):
+    """Returns the list of the greatest size of each table and the tuple of its entries."""
+    return [(table.most, tuple(table.entries)) for table in store.tables]
+
+
+def write_table(row):
     """Returns the numbers of a table."""
-    return [table.most] + write_list(table.entries, write_entry)
+    most, entries = row
+    return [most] + write_list(entries, write_entry)
 
 
 def write_memory(memory):
@@ -37,9 +41,15 @@ def write_memory(memory):
     return [memory.pages, memory.most] + write_list(sorted(memory.cells.items()), write_pair)
 
 
-def write_variable(variable):
+def variable_rows(store):
+    """Returns the list of the kind of each global, whether it is mutable, and its value."""
+    return [(variable.kind, variable.mutable, variable.value) for variable in store.variables]
+
+
+def write_variable(row):
     """Returns the numbers of a global."""
-    return write_kind(variable.kind) + [int(variable.mutable)] + write_value(variable.value)
+    kind, mutable, value = row
+    return write_kind(kind) + [int(mutable)] + write_value(value)
 
 
 def write_store(store):
@@ -47,16 +57,22 @@ def write_store(store):
     return (
         write_list(store.instances, write_instance)
         + write_list(store.functions, write_function)
-        + write_list(store.tables, write_table)
+        + write_list(table_rows(store), write_table)
         + write_list(store.memories, write_memory)
-        + write_list(store.variables, write_variable)
+        + write_list(variable_rows(store), write_variable)
         + write_list(store.tags, write_signature)
     )
 
 
-def write_frame(frame):
+def frame_row(frame):
+    """Returns the function of a call, its place, the values of its locals, and its stack."""
+    return frame.func, frame.place, tuple(frame.slots), tuple(frame.stack)
+
+
+def write_frame(row):
     """Returns the numbers of a call."""
-    return [frame.func, frame.place] + write_values(frame.slots) + write_values(frame.stack)
+    func, place, slots, stack = row
+    return [func, place] + write_values(slots) + write_values(stack)
 
 
 def write_status(status):
@@ -77,7 +93,7 @@ def write_machine(machine):
     """Returns the numbers of a machine."""
     return (
         write_store(machine.store)
-        + write_list(machine.frames[::-1], write_frame)
+        + write_list([frame_row(frame) for frame in machine.frames[::-1]], write_frame)
         + write_status(machine.status)
         + [machine.spent]
     )
@@ -98,8 +114,3 @@ def write_save(machine, names, points, fast):
 def machine_save(machine):
     """Returns the save of an engine that has nothing but this machine."""
     return write_save(machine, [], [], [])
-
-
-def digest_of(machine):
-    """Returns the digest of a machine."""
-    return mix(machine_save(machine), DIGEST_MODULUS)

@@ -31,16 +31,21 @@ def write_pair(pair):
     return list(pair)
 
 
+def value_number(value):
+    """Returns the number of a value."""
+    if value < 0:
+        return -2 * value - 1
+    return 2 * value
+
+
 def write_value(value):
     """Returns the list of the number of a value."""
-    if value < 0:
-        return [-2 * value - 1]
-    return [2 * value]
+    return [value_number(value)]
 
 
 def write_values(values):
     """Returns the numbers of a list of values."""
-    return write_list(values, write_value)
+    return write_numbers([value_number(value) for value in values])
 
 
 def write_kind(kind):
